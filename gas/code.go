@@ -3,13 +3,15 @@ package gas
 import (
 	"bytes"
 	"iter"
+
+	"cairn/opcode"
 )
 
 // Dest answers whether a place is one of Dests: P14.6
 func Dest(code []byte, at int) bool {
 	for place, op := range instructions(code) {
 		if place >= at {
-			return place == at && op == opJumpdest
+			return place == at && op == opcode.Jumpdest
 		}
 	}
 	return false
@@ -20,7 +22,7 @@ func Dests(code []byte) iter.Seq[int] {
 	all := Codes(code)
 	return func(yield func(int) bool) {
 		for place, op := range all {
-			if op == opJumpdest && !yield(place) {
+			if op == opcode.Jumpdest && !yield(place) {
 				return
 			}
 		}

@@ -1,110 +1,6 @@
 package gas
 
-// The opcodes; of those that are numbered, the first.
-const (
-	opStop = iota
-	opAdd
-	opMul
-	opSub
-	opDiv
-	opSdiv
-	opMod
-	opSmod
-	opAddmod
-	opMulmod
-	opExp
-	opSignextend
-)
-
-const (
-	opLt = 0x10 + iota
-	opGt
-	opSlt
-	opSgt
-	opEq
-	opIszero
-	opAnd
-	opOr
-	opXor
-	opNot
-	opByte
-	opShl
-	opShr
-	opSar
-)
-
-const opKeccak256 = 0x20
-
-const (
-	opAddress = 0x30 + iota
-	opBalance
-	opOrigin
-	opCaller
-	opCallvalue
-	opCalldataload
-	opCalldatasize
-	opCalldatacopy
-	opCodesize
-	opCodecopy
-	opGasprice
-	opExtcodesize
-	opExtcodecopy
-	opReturndatasize
-	opReturndatacopy
-	opExtcodehash
-	opBlockhash
-	opCoinbase
-	opTimestamp
-	opNumber
-	opPrevrandao
-	opGaslimit
-	opChainid
-	opSelfbalance
-	opBasefee
-	opBlobhash
-	opBlobbasefee
-)
-
-const (
-	opPop = 0x50 + iota
-	opMload
-	opMstore
-	opMstore8
-	opSload
-	opSstore
-	opJump
-	opJumpi
-	opPc
-	opMsize
-	opGas
-	opJumpdest
-	opTload
-	opTstore
-	opMcopy
-	opPush0
-)
-
-const (
-	opPush1 = 0x60
-	opDup1  = 0x80
-	opSwap1 = 0x90
-	opLog0  = 0xa0
-)
-
-const (
-	opCreate = 0xf0 + iota
-	opCall
-	opCallcode
-	opReturn
-	opDelegatecall
-	opCreate2
-)
-
-const (
-	opStaticcall   = 0xfa
-	opRevert       = 0xfd
-	opSelfdestruct = 0xff
-)
+import "cairn/opcode"
 
 // unnumbered is the number of an opcode that has none.
 const unnumbered = -1
@@ -112,14 +8,14 @@ const unnumbered = -1
 // family answers the opcode that stands for all of a numbered kind, and the number among them; any other opcode stands for itself.
 func family(op byte) (byte, int) {
 	switch {
-	case op >= opPush1 && op < opDup1:
-		return opPush1, int(op-opPush1) + 1
-	case op >= opDup1 && op < opSwap1:
-		return opDup1, int(op-opDup1) + 1
-	case op >= opSwap1 && op < opLog0:
-		return opSwap1, int(op-opSwap1) + 1
-	case op >= opLog0 && op <= opLog0+mostTopics:
-		return opLog0, int(op - opLog0)
+	case op >= opcode.Push1 && op < opcode.Dup1:
+		return opcode.Push1, int(op-opcode.Push1) + 1
+	case op >= opcode.Dup1 && op < opcode.Swap1:
+		return opcode.Dup1, int(op-opcode.Dup1) + 1
+	case op >= opcode.Swap1 && op < opcode.Log0:
+		return opcode.Swap1, int(op-opcode.Swap1) + 1
+	case op >= opcode.Log0 && op <= opcode.Log0+mostTopics:
+		return opcode.Log0, int(op - opcode.Log0)
 	}
 	return op, unnumbered
 }
