@@ -44,7 +44,8 @@ func (r *Ring[L]) reduce(a L, above uint64) L {
 	return less
 }
 
-// multiplyAdd answers x * y + a + b as two limbs: the greatest it can be is 2^128 - 1.
+// multiplyAdd answers x * y + a + b as two limbs: the greatest it can be is 2^128 - 1. Package limb has the same one; called from there
+// products take a good twentieth longer, and with them all that is reckoned on curves.
 func multiplyAdd(x, y, a, b uint64) (high, low uint64) {
 	high, low = bits.Mul64(x, y)
 	low, carry := bits.Add64(low, a, 0)

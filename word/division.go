@@ -1,10 +1,10 @@
 package word
 
 import (
-	"math"
 	"math/bits"
 
 	"cairn/api"
+	"cairn/limb"
 )
 
 // Div answers the whole part of x / y: P2.3
@@ -77,7 +77,7 @@ func divide(x, y api.Word) (quotient, rest api.Word) {
 
 // divideWide answers the whole part of x / y and what is left: both 0, if y is 0.
 func divideWide(x [8]uint64, y api.Word) (quotient [8]uint64, rest api.Word) {
-	n := used(y[:])
+	n := limb.Used(y[:])
 	switch n {
 	case 0:
 		return [8]uint64{}, api.Word{}
@@ -88,18 +88,8 @@ func divideWide(x [8]uint64, y api.Word) (quotient [8]uint64, rest api.Word) {
 	}
 }
 
-// used is how many limbs there are without the leading ones that are 0.
-func used(l []uint64) int {
-	for i := range len(l) {
-		if l[len(l)-1-i] != 0 {
-			return len(l) - i
-		}
-	}
-	return 0
-}
-
 func divideByLimb(x [8]uint64, y uint64) (quotient [8]uint64, rest api.Word) {
-	n := used(x[:])
+	n := limb.Used(x[:])
 	for i := range n {
 		at := n - 1 - i
 		quotient[at], rest[0] = bits.Div64(rest[0], x[at], y)
@@ -113,16 +103,10 @@ func divideByLimbs(x [8]uint64, y api.Word, n int) (quotient [8]uint64, rest api
 	raised := uint64(bits.LeadingZeros64(y[n-1]))
 	y = Shl(Of(raised), y)
 	left := raise(x, raised)
-	places := used(x[:]) - n + 1
+	places := limb.Used(x[:]) - n + 1
 	for i := range places {
 		at := places - 1 - i
-		part := left[at : at+n+1]
-		guess := guessLimb(part[n], part[n-1], part[n-2], y[n-1], y[n-2])
-		if subtractProduct(part, y[:n], guess) {
-			guess--
-			addBack(part, y[:n])
-		}
-		quotient[at] = guess
+		quotient[at] = limb.Divide(left[at:at+n+1], y[:n])
 	}
 	return quotient, Shr(Of(raised), api.Word{left[0], left[1], left[2], left[3]})
 }
@@ -137,46 +121,4 @@ func raise(x [8]uint64, n uint64) [9]uint64 {
 	}
 	raised[len(x)] = below
 	return raised
-}
-
-// guessLimb guesses a limb of a quotient by the highest three limbs of what is left and the highest two of the divisor; high is never
-// above first, for else the limb ahead would have been too small. By the divisor's first limb alone the guess is at most two too great,
-// so that behind one look at the second limb it is right or one too great.
-func guessLimb(high, middle, low, first, second uint64) uint64 {
-	guess, rest, over := uint64(math.MaxUint64), middle, uint64(0)
-	if high < first {
-		guess, rest = bits.Div64(high, middle, first)
-	} else {
-		rest, over = bits.Add64(middle, first, 0)
-	}
-	if over == 0 && isTooGreat(guess, second, rest, low) {
-		guess--
-	}
-	return guess
-}
-
-// isTooGreat tells whether guess * second is above rest * 2^64 + low.
-func isTooGreat(guess, second, rest, low uint64) bool {
-	above, below := bits.Mul64(guess, second)
-	return above > rest || above == rest && below > low
-}
-
-// subtractProduct takes y * by away from part, which has one limb more than y, and tells whether that was below 0.
-func subtractProduct(part, y []uint64, by uint64) bool {
-	var above, product, borrow uint64
-	for i := range len(y) {
-		above, product = multiplyAdd(y[i], by, above, 0)
-		part[i], borrow = bits.Sub64(part[i], product, borrow)
-	}
-	part[len(y)], borrow = bits.Sub64(part[len(y)], above, borrow)
-	return borrow == 1
-}
-
-// addBack adds y to part, which has one limb more than y and is below 0 by less than y.
-func addBack(part, y []uint64) {
-	var carry uint64
-	for i := range len(y) {
-		part[i], carry = bits.Add64(part[i], y[i], carry)
-	}
-	part[len(y)] += carry
 }

@@ -1,9 +1,8 @@
 package word
 
 import (
-	"math/bits"
-
 	"cairn/api"
+	"cairn/limb"
 )
 
 // Mul answers x * y: P2.2
@@ -13,7 +12,7 @@ func Mul(x, y api.Word) api.Word {
 		var carry uint64
 		// What would stand at limb 4 or above is lost, so it is not reckoned at all.
 		for j := range limbs - i {
-			carry, product[i+j] = multiplyAdd(x[i], y[j], product[i+j], carry)
+			carry, product[i+j] = limb.MultiplyAdd(x[i], y[j], product[i+j], carry)
 		}
 	}
 	return product
@@ -25,7 +24,7 @@ func Wide(x, y api.Word) [8]uint64 {
 	for i := range limbs {
 		var carry uint64
 		for j := range limbs {
-			carry, product[i+j] = multiplyAdd(x[i], y[j], product[i+j], carry)
+			carry, product[i+j] = limb.MultiplyAdd(x[i], y[j], product[i+j], carry)
 		}
 		product[i+limbs] = carry
 	}
@@ -44,20 +43,11 @@ func Exp(x, y api.Word) api.Word {
 	return power
 }
 
-// multiplyAdd answers x * y + a + b as two limbs: the greatest it can be is 2^128 - 1.
-func multiplyAdd(x, y, a, b uint64) (high, low uint64) {
-	high, low = bits.Mul64(x, y)
-	low, carry := bits.Add64(low, a, 0)
-	high += carry
-	low, carry = bits.Add64(low, b, 0)
-	return high + carry, low
-}
-
 // multiplyLimb answers x * y + a, and what of that is above the word.
 func multiplyLimb(x api.Word, y, a uint64) (api.Word, uint64) {
 	carry := a
 	for i := range limbs {
-		carry, x[i] = multiplyAdd(x[i], y, carry, 0)
+		carry, x[i] = limb.MultiplyAdd(x[i], y, carry, 0)
 	}
 	return x, carry
 }

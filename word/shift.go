@@ -4,6 +4,7 @@ import (
 	"math/bits"
 
 	"cairn/api"
+	"cairn/limb"
 )
 
 // bitsOfWord is how many bits a word has: a shift by as many leaves none of them.
@@ -64,7 +65,7 @@ func SignExtend(k, x api.Word) api.Word {
 
 // Bits answers how many bits x has without leading noughts: P2.7
 func Bits(x api.Word) int {
-	n := used(x[:])
+	n := limb.Used(x[:])
 	if n == 0 {
 		return 0
 	}
